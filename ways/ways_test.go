@@ -1,0 +1,24 @@
+package ways
+
+import "testing"
+
+// The ways that each layer leans on (the chapters' sections "Ways"), in the words of look_test.go.
+func TestWays(t *testing.T) {
+	rows := []struct {
+		layer string
+		words []string
+	}{
+		{"code", []string{"method-value", "array"}},
+	}
+	for _, r := range rows {
+		t.Run(r.layer, func(t *testing.T) {
+			miss, err := WaysMissing("..", "cubby", []string{r.layer}, r.words)
+			if err != nil {
+				t.Fatal(err)
+			}
+			for _, m := range miss {
+				t.Errorf("%s does not lean on %s", r.layer, m)
+			}
+		})
+	}
+}
