@@ -9,6 +9,7 @@ func TestWays(t *testing.T) {
 		words []string
 	}{
 		{"code", []string{"method-value", "array"}},
+		{"disk", []string{"array"}},
 	}
 	for _, r := range rows {
 		t.Run(r.layer, func(t *testing.T) {
