@@ -11,6 +11,7 @@ func TestWays(t *testing.T) {
 		{"code", []string{"method-value", "array"}},
 		{"disk", []string{"array"}},
 		{"wal", []string{"method-expression"}},
+		{"table", []string{"range-function"}},
 	}
 	for _, r := range rows {
 		t.Run(r.layer, func(t *testing.T) {
