@@ -12,6 +12,8 @@ func TestWays(t *testing.T) {
 		{"disk", []string{"array"}},
 		{"wal", []string{"method-expression"}},
 		{"table", []string{"range-function"}},
+		{"utf7", []string{"range-string"}},
+		{"token", []string{"method-expression"}},
 	}
 	for _, r := range rows {
 		t.Run(r.layer, func(t *testing.T) {
