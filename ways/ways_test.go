@@ -14,6 +14,8 @@ func TestWays(t *testing.T) {
 		{"table", []string{"range-function"}},
 		{"utf7", []string{"range-string"}},
 		{"token", []string{"method-expression"}},
+		{"sets", []string{"range-string"}},
+		{"stamp", []string{"array"}},
 	}
 	for _, r := range rows {
 		t.Run(r.layer, func(t *testing.T) {
