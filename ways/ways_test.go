@@ -16,6 +16,8 @@ func TestWays(t *testing.T) {
 		{"token", []string{"method-expression"}},
 		{"sets", []string{"range-string"}},
 		{"stamp", []string{"array"}},
+		{"flags", []string{"method-expression", "array"}},
+		{"feed", []string{"method-value", "function-field"}},
 	}
 	for _, r := range rows {
 		t.Run(r.layer, func(t *testing.T) {
