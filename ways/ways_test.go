@@ -18,6 +18,7 @@ func TestWays(t *testing.T) {
 		{"stamp", []string{"array"}},
 		{"flags", []string{"method-expression", "array"}},
 		{"feed", []string{"method-value", "function-field"}},
+		{"command", []string{"method-expression", "map", "closure"}},
 	}
 	for _, r := range rows {
 		t.Run(r.layer, func(t *testing.T) {
