@@ -19,6 +19,7 @@ func TestWays(t *testing.T) {
 		{"flags", []string{"method-expression", "array"}},
 		{"feed", []string{"method-value", "function-field"}},
 		{"command", []string{"method-expression", "map", "closure"}},
+		{"reply", []string{"method-expression"}},
 	}
 	for _, r := range rows {
 		t.Run(r.layer, func(t *testing.T) {
