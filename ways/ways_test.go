@@ -20,6 +20,8 @@ func TestWays(t *testing.T) {
 		{"feed", []string{"method-value", "function-field"}},
 		{"command", []string{"method-expression", "map", "closure"}},
 		{"reply", []string{"method-expression"}},
+		{"header", []string{"range-function"}},
+		{"address", []string{"method-value", "array"}},
 	}
 	for _, r := range rows {
 		t.Run(r.layer, func(t *testing.T) {
