@@ -22,6 +22,8 @@ func TestWays(t *testing.T) {
 		{"reply", []string{"method-expression"}},
 		{"header", []string{"range-function"}},
 		{"address", []string{"method-value", "array"}},
+		{"mime", []string{"closure", "range-function"}},
+		{"section", []string{"method-expression"}},
 	}
 	for _, r := range rows {
 		t.Run(r.layer, func(t *testing.T) {
