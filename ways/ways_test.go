@@ -24,6 +24,9 @@ func TestWays(t *testing.T) {
 		{"address", []string{"method-value", "array"}},
 		{"mime", []string{"closure", "range-function"}},
 		{"section", []string{"method-expression"}},
+		{"search", []string{"method-expression", "array"}},
+		{"house", []string{"method-expression"}},
+		{"remote", []string{"method-value", "map"}},
 	}
 	for _, r := range rows {
 		t.Run(r.layer, func(t *testing.T) {
