@@ -27,6 +27,8 @@ func TestWays(t *testing.T) {
 		{"search", []string{"method-expression", "array"}},
 		{"house", []string{"method-expression"}},
 		{"remote", []string{"method-value", "map"}},
+		{"shelf", []string{"map", "assertion"}},
+		{"image", []string{"closure"}},
 	}
 	for _, r := range rows {
 		t.Run(r.layer, func(t *testing.T) {
