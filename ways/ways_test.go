@@ -29,6 +29,7 @@ func TestWays(t *testing.T) {
 		{"remote", []string{"method-value", "map"}},
 		{"shelf", []string{"map", "assertion"}},
 		{"image", []string{"closure"}},
+		{"queue", []string{"method-expression"}},
 	}
 	for _, r := range rows {
 		t.Run(r.layer, func(t *testing.T) {
