@@ -30,6 +30,7 @@ func TestWays(t *testing.T) {
 		{"shelf", []string{"map", "assertion"}},
 		{"image", []string{"closure"}},
 		{"queue", []string{"method-expression"}},
+		{"vault", []string{"range-function"}},
 	}
 	for _, r := range rows {
 		t.Run(r.layer, func(t *testing.T) {
