@@ -31,6 +31,7 @@ func TestWays(t *testing.T) {
 		{"image", []string{"closure"}},
 		{"queue", []string{"method-expression"}},
 		{"vault", []string{"range-function"}},
+		{"view", []string{"label"}},
 	}
 	for _, r := range rows {
 		t.Run(r.layer, func(t *testing.T) {
