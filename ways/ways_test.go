@@ -32,6 +32,7 @@ func TestWays(t *testing.T) {
 		{"queue", []string{"method-expression"}},
 		{"vault", []string{"range-function"}},
 		{"view", []string{"label"}},
+		{"session", []string{"method-expression", "map"}},
 	}
 	for _, r := range rows {
 		t.Run(r.layer, func(t *testing.T) {
