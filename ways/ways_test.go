@@ -33,6 +33,7 @@ func TestWays(t *testing.T) {
 		{"vault", []string{"range-function"}},
 		{"view", []string{"label"}},
 		{"session", []string{"method-expression", "map"}},
+		{"client", []string{"method-expression", "map"}},
 	}
 	for _, r := range rows {
 		t.Run(r.layer, func(t *testing.T) {
