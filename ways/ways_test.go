@@ -34,6 +34,7 @@ func TestWays(t *testing.T) {
 		{"view", []string{"label"}},
 		{"session", []string{"method-expression", "map"}},
 		{"client", []string{"method-expression", "map"}},
+		{"sync", []string{"method-expression", "array"}},
 	}
 	for _, r := range rows {
 		t.Run(r.layer, func(t *testing.T) {
