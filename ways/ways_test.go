@@ -35,6 +35,7 @@ func TestWays(t *testing.T) {
 		{"session", []string{"method-expression", "map"}},
 		{"client", []string{"method-expression", "map"}},
 		{"sync", []string{"method-expression", "array"}},
+		{"proxy", []string{"method-value", "map"}},
 	}
 	for _, r := range rows {
 		t.Run(r.layer, func(t *testing.T) {
