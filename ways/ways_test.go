@@ -36,6 +36,8 @@ func TestWays(t *testing.T) {
 		{"client", []string{"method-expression", "map"}},
 		{"sync", []string{"method-expression", "array"}},
 		{"proxy", []string{"method-value", "map"}},
+		{"audit", []string{"method-expression"}},
+		{"script", []string{"label"}},
 	}
 	for _, r := range rows {
 		t.Run(r.layer, func(t *testing.T) {
