@@ -101,6 +101,9 @@ func rows() []row {
 			{Kind: api.ItemBody, Section: api.Section{Kind: api.PartFields, Fields: []string{"from", "x-a", "to"}}, From: 7, Count: 999999999}}}},
 		{"a1 FETCH 1 (BODY[2.HEADER.FIELDS.NOT (a)] BODY[HEADER] BODY[TEXT])", api.Command{Kind: api.CmdFetch, Set: one, Items: []api.Item{
 			body([]int{2}, api.PartNot, "a"), body(nil, api.PartHeader), body(nil, api.PartText)}}},
+		{"a1 FETCH 1 (BODY[1.MIME]<0.1> BODY.PEEK[HEADER.FIELDS (" + strings.Repeat("~", 40) + ")])", api.Command{Kind: api.CmdFetch, Set: one, Items: []api.Item{
+			{Kind: api.ItemBody, Section: api.Section{Path: []int{1}, Kind: api.PartMime}, Count: 1},
+			{Kind: api.ItemBody, Peek: true, Section: api.Section{Kind: api.PartFields, Fields: []string{strings.Repeat("~", 40)}}}}}},
 		{"a1 SEARCH ALL answered UNDELETED draft UNFLAGGED Seen", api.Command{Kind: api.CmdSearch, Keys: []api.Key{{Kind: api.KeyAll}, {Kind: api.KeyFlag, S: `\Answered`}, {Kind: api.KeyNoFlag, S: `\Deleted`}, {Kind: api.KeyFlag, S: `\Draft`}, {Kind: api.KeyNoFlag, S: `\Flagged`}, seen}}},
 		{"a1 UID SEARCH keyword Foo UNKEYWORD $Cub7", api.Command{Kind: api.CmdSearch, Uid: true, Keys: []api.Key{{Kind: api.KeyFlag, S: "foo"}, {Kind: api.KeyNoFlag, S: "$cub7"}}}},
 		{"a1 SEARCH UID 1:* 2,3 *", api.Command{Kind: api.CmdSearch, Keys: []api.Key{{Kind: api.KeyUid, Set: []api.Range{rng(1, 0)}}, {Kind: api.KeySet, Set: []api.Range{rng(2, 2), rng(3, 3)}}, {Kind: api.KeySet, Set: []api.Range{{}}}}}},
@@ -125,6 +128,23 @@ func TestParseAndPrint(t *testing.T) {
 		}
 		if back, e := command.Parse(b); e != api.OK || !same(back, r.want) {
 			t.Errorf("P11.2: what is printed is parsed again as it was: %q: %q", r.line, b)
+		}
+	}
+}
+
+func TestTags(t *testing.T) {
+	for _, tag := range []string{"a", "!", "~", "x.1", strings.Repeat("t", 24)} {
+		c, e := command.Parse([]byte(tag + " NOOP"))
+		if e != api.OK || c.Tag != tag {
+			t.Errorf("P11.1: the tag %q: %+v, %d", tag, c, e)
+		}
+		if c, e = command.Parse([]byte(tag + " \x80")); e != api.ErrForm || c.Tag != tag {
+			t.Errorf("P11.1: the tag %q beside an error: %+v, %d", tag, c, e)
+		}
+	}
+	for _, line := range []string{"a\x80 NOOP", "a(NOOP", "a\tNOOP", strings.Repeat("t", 25), "+", "a%", ""} {
+		if c, e := command.Parse([]byte(line)); e == api.OK || c.Tag != "" {
+			t.Errorf("P11.1: %q: %+v, %d", line, c, e)
 		}
 	}
 }
@@ -222,7 +242,7 @@ func TestPrintRefuses(t *testing.T) {
 	around := make([]api.Key, 1)
 	around[0] = api.Key{Kind: api.KeyNot, Keys: around}
 	bad := []api.Command{
-		{}, {Tag: "a"}, {Tag: "a", Kind: -1}, {Tag: "a", Kind: 20}, {Kind: api.CmdNoop}, {Tag: "a b", Kind: api.CmdNoop}, {Tag: "+", Kind: api.CmdNoop}, {Tag: "a", Kind: api.CmdNoop, Box: "x"}, {Tag: "a", Kind: api.CmdNoop, Uid: true},
+		{}, {Tag: "a"}, {Tag: "a", Kind: -1}, {Tag: "a", Kind: 20}, {Kind: api.CmdNoop}, {Tag: "a b", Kind: api.CmdNoop}, {Tag: "+", Kind: api.CmdNoop}, {Tag: "a", Kind: api.CmdNoop, Box: "x"}, {Tag: "a", Kind: api.CmdNoop, To: "x"}, {Tag: "a", Kind: api.CmdNoop, Set: one}, {Tag: "a", Kind: api.CmdNoop, Items: items(1)}, {Tag: "a", Kind: api.CmdNoop, Op: 1}, {Tag: "a", Kind: api.CmdNoop, Silent: true}, {Tag: "a", Kind: api.CmdNoop, Flags: []string{"x"}}, {Tag: "a", Kind: api.CmdNoop, Date: "x"}, {Tag: "a", Kind: api.CmdNoop, Data: []byte("x")}, {Tag: "a", Kind: api.CmdNoop, Keys: []api.Key{{Kind: api.KeyAll}}}, {Tag: "a", Kind: api.CmdNoop, Uid: true},
 		{Tag: "a", Kind: api.CmdSelect}, {Tag: "a", Kind: api.CmdSelect, Box: "inbox"}, {Tag: "a", Kind: api.CmdSelect, Box: "\xff"}, {Tag: "a", Kind: api.CmdSelect, Box: "a", Uid: true}, {Tag: "a", Kind: api.CmdSelect, Box: "a", To: "b"},
 		{Tag: "a", Kind: api.CmdLogin, Box: "\x00"}, {Tag: "a", Kind: api.CmdList, To: "\xff"},
 		{Tag: "a", Kind: api.CmdStatus, Box: "a"}, {Tag: "a", Kind: api.CmdStatus, Box: "a", Items: items(1)}, {Tag: "a", Kind: api.CmdStatus, Box: "a", Items: []api.Item{{Kind: api.ItemUnseen, Peek: true}}},

@@ -8,7 +8,7 @@ import (
 const (
 	mostNumber   = 999 // of a part
 	longestField = 40
-	mostDigits   = 9
+	greatest     = 999_999_999 // nine digits
 )
 
 func (p *parser) fetch(c *api.Command) bool {
@@ -89,8 +89,8 @@ func partial(s string, i *api.Item) bool {
 		return false
 	}
 	a, b, _ := strings.Cut(s, ".")
-	from, right := number(a, mostDigits)
-	count, also := number(b, mostDigits)
+	from, right := number(a)
+	count, also := number(b)
 	i.From, i.Count = from, count
 	return right && also && count > 0
 }
@@ -102,7 +102,7 @@ func (p *parser) section(s *api.Section) bool {
 	}
 	for {
 		piece, behind, more := strings.Cut(rest, ".")
-		n, ok := number(piece, mostDigits)
+		n, ok := number(piece)
 		if !ok {
 			break
 		}

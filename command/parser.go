@@ -5,6 +5,7 @@ import (
 	"cubby/flags"
 	"cubby/sets"
 	"cubby/stamp"
+	"cubby/text"
 	"cubby/token"
 	"cubby/utf7"
 	"strings"
@@ -287,17 +288,8 @@ func storeOp(word string) int {
 	return 0
 }
 
-// number reads digits, up to so many of them, without a 0 ahead of others.
-func number(s string, most int) (int, bool) {
-	if s == "" || len(s) > most || s[0] == '0' && len(s) > 1 {
-		return 0, false
-	}
-	n := 0
-	for i := range len(s) {
-		if s[i] < '0' || s[i] > '9' {
-			return 0, false
-		}
-		n = n*10 + int(s[i]-'0')
-	}
-	return n, true
+// number reads a number of so many digits at most, without a 0 ahead of others.
+func number(s string) (int, bool) {
+	n, ok := text.Number(s, greatest)
+	return int(n), ok
 }

@@ -140,7 +140,7 @@ func (p *parser) size(k *api.Key) bool {
 		return false
 	}
 	s, ok := p.atom()
-	n, right := number(s, mostDigits)
+	n, right := number(s)
 	k.N = n
 	return ok && right
 }

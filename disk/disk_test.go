@@ -195,6 +195,24 @@ func TestFork(t *testing.T) {
 	}
 }
 
+func TestForksWriteApart(t *testing.T) {
+	for n := 1; n < 9; n++ {
+		d := made(t, 2)
+		for range n {
+			d.Write(1, full(9))
+		}
+		f := d.Fork()
+		f.Write(0, full(1))
+		d.Write(0, full(2))
+		shows(t, f, 0, full(1))
+		shows(t, d, 0, full(2))
+		f.Flush()
+		shows(t, f, 0, full(1))
+		d.Flush()
+		shows(t, d, 0, full(2))
+	}
+}
+
 func TestNil(t *testing.T) {
 	var d *disk.Disk
 	if _, e := d.Read(0); e != api.ErrNil {

@@ -64,6 +64,7 @@ func TestCommands(t *testing.T) {
 		{"a {9999999999}\r\nb\r\n", `3 1"b"`, 0},
 		{"a {16384}\r\nb\r\n", `2`, 14},
 		{"a\r", "", 2},
+		{"a\r\n{1}\r\nx\r\n{1}\r\ny\r\n", `1"a" 2 1"{1}\r\nx" 2 1"{1}\r\ny"`, 0},
 	}
 	for _, r := range rows {
 		f := feed.New()

@@ -15,7 +15,7 @@ import (
 func TestFold(t *testing.T) {
 	rows := []struct{ f, want string }{
 		{`\Answered`, `\Answered`}, {`\DELETED`, `\Deleted`}, {`\draft`, `\Draft`}, {`\fLAGGED`, `\Flagged`}, {`\seen`, `\Seen`},
-		{"Foo", "foo"}, {"$Label1", "$label1"}, {"a}", "a}"}, {"$CUB12", "$cub12"}, {"Seen", "seen"}, {strings.Repeat("X", 24), strings.Repeat("x", 24)}, {"+x", "+x"},
+		{"Foo", "foo"}, {"AZ@`", "az@`"}, {"$Label1", "$label1"}, {"a}", "a}"}, {"$CUB12", "$cub12"}, {"Seen", "seen"}, {strings.Repeat("X", 24), strings.Repeat("x", 24)}, {"+x", "+x"},
 	}
 	for _, r := range rows {
 		if got, e := flags.Fold(r.f); got != r.want || e != api.OK {
@@ -145,8 +145,8 @@ func TestTokens(t *testing.T) {
 			t.Errorf("P9.2: Number(%q): %d, %v", f, n, ok)
 		}
 	}
-	got := flags.Hide([]string{"z", "$cub1", "$cub0", "A", "$CUB22", "z"})
-	if !slices.Equal(got, []string{"z", "$cub0", "A", "z"}) {
+	got := flags.Hide([]string{"z", "$cub1", "$cub0", "A", "$CUB22", "$cub1a", "$cub1/", "$cub18446744073709551616", "z"})
+	if !slices.Equal(got, []string{"z", "$cub0", "A", "$cub1a", "$cub1/", "z"}) {
 		t.Errorf("P9.2: Hide: %q", got)
 	}
 	if len(flags.Hide(nil)) != 0 {

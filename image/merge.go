@@ -4,6 +4,7 @@ import (
 	"bytes"
 	"cmp"
 	"cubby/api"
+	"cubby/dates"
 	"cubby/plain"
 	"cubby/shelf"
 	"cubby/utf7"
@@ -73,7 +74,7 @@ func grow(f *api.Folder, l []api.Seen, clock int) {
 		if len(f.List) >= api.MaxMsgs || f.Next == math.MaxUint32 {
 			return
 		}
-		when, ok := canonical(s.Date)
+		when, ok := dates.Same(s.Date)
 		own, e := shown(s.Flags)
 		if slices.Contains(have, s.Up) || !ok || e != api.OK || s.Size < 0 || s.Size > api.MaxLiteral {
 			continue

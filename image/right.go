@@ -2,6 +2,7 @@ package image
 
 import (
 	"cubby/api"
+	"cubby/dates"
 	"cubby/utf7"
 	"slices"
 )
@@ -54,7 +55,7 @@ func rightFolder(f *api.Folder, clock int) bool {
 
 func rightHeld(h *api.Held) bool {
 	own, e := shown(h.Flags)
-	when, ok := canonical(h.Date)
+	when, ok := dates.Same(h.Date)
 	if e != api.OK || !slices.Equal(own, h.Flags) || !ok || when != h.Date || h.Size < 0 || h.Size > api.MaxLiteral {
 		return false
 	}

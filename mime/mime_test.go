@@ -3,6 +3,7 @@ package mime_test
 import (
 	"math/rand"
 	"reflect"
+	"strconv"
 	"strings"
 	"testing"
 
@@ -87,6 +88,11 @@ func TestParse(t *testing.T) {
 	if p := mime.Parse([]byte(b)); len(p.Parts) != 0 {
 		t.Error("P15.1: only of multipart the body is cut")
 	}
+	for _, kind := range []string{"message/partial", "text/rfc822", "multipart/mixed", "multipart/rfc822"} {
+		if p := mime.Parse([]byte("Content-Type: " + kind + "\n\n\n\nx")); len(p.Parts) != 0 {
+			t.Errorf("P15.1: %s has no parts", kind)
+		}
+	}
 	b = head + "--b\r\nA: 1\r\n\r\nx\r\ny\r\n--b--"
 	p := mime.Parse([]byte(b))
 	want := api.Part{Type: "text", Sub: "plain", Head: len(head) + 5, From: len(head) + 13, To: len(head) + 17, Lines: 1}
@@ -133,6 +139,18 @@ func TestStructure(t *testing.T) {
 		if got := whole(r.b); got != r.want {
 			t.Errorf("P15.2: %q: %s; want %s", r.b, got, r.want)
 		}
+	}
+	text, in := `("text" "plain" NIL NIL NIL "7bit" 1 0)`, "\nx"
+	for n := 1; n <= api.MaxNest; n++ {
+		text = `("message" "rfc822" NIL NIL NIL "7bit" ` + strconv.Itoa(len(in)) + " (NIL NIL NIL NIL NIL NIL NIL NIL NIL NIL) " + text + " " + strconv.Itoa(strings.Count(in, "\n")) + ")"
+		in = "Content-Type: message/rfc822\n\n" + in
+		if got := whole(in); got != text {
+			t.Errorf("P15.2: %d messages in one another: %s; want %s", n, got, text)
+		}
+	}
+	deep := "Content-Type: message/rfc822\n\n" + in
+	if got := whole(deep); strings.Count(got, `"rfc822"`) != api.MaxNest+1 || strings.Contains(got, `"text"`) {
+		t.Errorf("P15.2: not deeper than may be: %s", got)
 	}
 	b := []byte("Content-Type: multipart/mixed; boundary=b\n\n--b\nContent-ID: \"q\n\nx\ny\n--b--")
 	if got := mime.Structure(b, mime.Parse(b).Parts[0]); got != `("text" "plain" NIL "\"q" NIL "7bit" 3 1)` {

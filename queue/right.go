@@ -2,10 +2,10 @@ package queue
 
 import (
 	"cubby/api"
+	"cubby/dates"
 	"cubby/flags"
 	"cubby/image"
 	"cubby/plain"
-	"cubby/stamp"
 	"cubby/utf7"
 	"slices"
 )
@@ -75,10 +75,6 @@ func rightFlags(l []string) bool {
 }
 
 func rightDate(date string) bool {
-	t, e := stamp.Parse(date)
-	if e != api.OK {
-		return false
-	}
-	s, e := stamp.Print(t)
-	return e == api.OK && s == date
+	s, ok := dates.Same(date)
+	return ok && s == date
 }

@@ -2,6 +2,7 @@ package reply
 
 import (
 	"cubby/api"
+	"cubby/text"
 	"math"
 	"strings"
 )
@@ -157,15 +158,11 @@ func (c *cursor) untagged() api.Reply {
 }
 
 func (c *cursor) number() uint32 {
-	s := c.run(digit, 10)
-	var v uint64
-	for i := range len(s) {
-		v = v*10 + uint64(s[i]-'0')
-	}
-	if len(s) > 1 && s[0] == '0' || v > math.MaxUint32 {
+	n, ok := text.Number(c.run(digit, 10), math.MaxUint32)
+	if !ok {
 		c.fail(api.ErrForm)
 	}
-	return uint32(v)
+	return uint32(n)
 }
 
 // line is a text that ends a line.

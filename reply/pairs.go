@@ -2,9 +2,9 @@ package reply
 
 import (
 	"cubby/api"
+	"cubby/text"
 	"cubby/token"
 	"math"
-	"strconv"
 )
 
 func (c *cursor) pairs() []api.Pair {
@@ -127,12 +127,11 @@ func (c *cursor) inner() {
 
 // literal goes behind a literal's end.
 func (c *cursor) literal() {
-	s := c.run(digit, 10)
-	c.text("}\r\n")
-	n, err := strconv.Atoi(s)
-	if err != nil || n > api.MaxLiteral || len(s) > 1 && s[0] == '0' {
+	n, ok := text.Number(c.run(digit, 10), api.MaxLiteral)
+	if !ok {
 		c.fail(api.ErrForm)
 	}
+	c.text("}\r\n")
 	for range n {
 		if x, ok := c.peek(); !ok || x == 0 {
 			c.fail(api.ErrForm)

@@ -81,6 +81,13 @@ func TestWithoutBytes(t *testing.T) {
 			t.Errorf("P17.2: NOT %s", s)
 		}
 	}
+	with := letter()
+	with.Has = false
+	for _, s := range []string{"FROM ann", "BODY body", "TEXT ann", "HEADER from ann"} {
+		if search.Match(keys(t, s)[0], with) {
+			t.Errorf("P17.2: bytes that are said not to be here: %s", s)
+		}
+	}
 	if !search.Match(keys(t, "(SEEN 3 LARGER 5)")[0], m) {
 		t.Error("P17.2: what asks for no bytes")
 	}

@@ -279,6 +279,62 @@ func TestRoom(t *testing.T) {
 	}
 }
 
+func TestCompactOfAGreatTable(t *testing.T) {
+	d := newDisk(t, 1<<16)
+	x := open(t, d)
+	value := func(i, round int) string { return strings.Repeat(string(rune('a'+i+round)), 20000) }
+	want := ""
+	for round := range 8 {
+		for i := range 6 {
+			if e := x.Do([]api.Change{set(string(rune('a'+i)), value(i, round))}); e != api.OK {
+				t.Fatalf("P4.4: Do: %d", e)
+			}
+		}
+		want = all(x, "", "")
+		if e := x.Compact(); e != api.OK || all(x, "", "") != want {
+			t.Fatalf("P4.4: Compact of a great table: %d", e)
+		}
+	}
+	l, _ := wal.Open(d)
+	if n := len(l.Records()); n > 3 {
+		t.Errorf("P4.2: %d records, of which 2 or 3 are enough", n)
+	}
+	fall(d, nil)
+	x = open(t, d)
+	if all(x, "", "") != want {
+		t.Error("P4.2: Compact of a great table is safe")
+	}
+	if !x.Room() {
+		t.Error("P4.2: there is room behind Compact")
+	}
+	for i := range 60 {
+		if open(t, d).Room() != x.Room() {
+			t.Fatalf("P4.2: opened anew there is as much room")
+		}
+		if !x.Room() {
+			break
+		}
+		x.Do([]api.Change{set("z", strings.Repeat("z", 50000+i))})
+	}
+	if x.Room() {
+		t.Error("P4.2: there is no end of room")
+	}
+}
+
+func TestCompactWithoutRoom(t *testing.T) {
+	d := newDisk(t, 8192)
+	x := open(t, d)
+	for i := 0; x.Do([]api.Change{set("k"+string(rune('a'+i%3)), strings.Repeat(string(rune('a'+i)), 50000))}) == api.OK; i++ {
+	}
+	want := all(x, "", "")
+	if e := x.Compact(); e != api.OK && e != api.ErrFull || all(x, "", "") != want {
+		t.Errorf("P4.2: Compact without room: %d", e)
+	}
+	if all(open(t, d), "", "") != want {
+		t.Error("P4.1: with any error but ErrDown nothing has changed")
+	}
+}
+
 // What promise P4.4 says that finds room.
 func TestThereIsRoom(t *testing.T) {
 	for seed := int64(0); seed < 60; seed++ {

@@ -81,7 +81,7 @@ func TestPrintRefuses(t *testing.T) {
 		{{}}, {{Kind: 9}}, {{Kind: -1}}, {{Kind: api.TokOpen, S: "("}}, {{Kind: api.TokSpace, S: " "}},
 		{atom("")}, {atom("a b")}, {atom("a(")}, {atom("a\x80")}, {atom("a\"")},
 		{quoted("a\r")}, {quoted("\n")}, {quoted("\x00")}, {quoted("\x80")},
-		{literal("a\x00")}, {literal(strings.Repeat("x", api.MaxLiteral+1))},
+		{literal("a\x00")}, {literal("\x00")}, {literal(strings.Repeat("x", api.MaxLiteral+1))},
 		{atom("a"), atom("b")}, {space, atom("a"), atom("b"), space},
 	}
 	for _, r := range rows {
@@ -92,6 +92,9 @@ func TestPrintRefuses(t *testing.T) {
 }
 
 func TestAtomAndQuote(t *testing.T) {
+	if _, e := token.Print([]api.Token{literal(strings.Repeat("x", api.MaxLiteral))}); e != api.OK {
+		t.Errorf("P6.2: the longest literal: %d", e)
+	}
 	for _, s := range []string{"a", "\\Seen", "1:*", "a}b", "+FLAGS", "~"} {
 		if !token.Atom(s) {
 			t.Errorf("P6.1: Atom(%q)", s)

@@ -27,6 +27,8 @@ func TestForms(t *testing.T) {
 		{"\x00\x1f\x7f", "&AAAAHwB,-"},
 		{"\ufffd", "&,,0-"},
 		{"-\u00e9-", "-&AOk--"},
+		{string([]rune{0xd7ff, 0xe000}), "&1,,gAA-"},
+		{"\U00010000\U0010ffff", "&2ADcANv,3,8-"},
 	}
 	for _, r := range rows {
 		if got, e := utf7.Encode(r.name); got != r.want || e != api.OK {
