@@ -58,12 +58,12 @@ func msg(uid uint32, l ...string) api.Msg {
 
 func TestOnce(t *testing.T) {
 	b := func(l ...api.Msg) api.Box { return api.Box{Msgs: l} }
-	for i, boxes := range [][]api.Box{nil, {b(), b(msg(1))}, {b(msg(1, "$cub1", "$cub2"), msg(2, "k")), b(msg(1, "$cub3", "k"))}, {b(msg(1, "$cub0"), msg(2, "$cub0"))}, {b(msg(1, "$cub1", "$CUB1"))}} {
+	for i, boxes := range [][]api.Box{nil, {b(), b(msg(1))}, {b(msg(1, "$cub1", "$cub2"), msg(2, "k")), b(msg(1, "$cub3", "k"))}, {b(msg(1, "$cub0"), msg(2, "$cub0"))}, {b(msg(1, "$cub1", "$CUB1"))}, {b(msg(1, "$cub2", "$cub1", "$cub2"))}} {
 		if !audit.Once(boxes) {
 			t.Errorf("P29.1: row %d: once", i)
 		}
 	}
-	for i, boxes := range [][]api.Box{{b(msg(1, "$cub1"), msg(2, "a", "$cub1"))}, {b(msg(1, "$cub1")), b(msg(7, "$cub1"))}, {b(msg(1, "$cub5")), b(), b(msg(7, "$CUB5"))}} {
+	for i, boxes := range [][]api.Box{{b(msg(1, "$cub1"), msg(2, "a", "$cub1"))}, {b(msg(1, "$cub1")), b(msg(7, "$cub1"))}, {b(msg(1, "$cub5")), b(), b(msg(7, "$CUB5"))}, {b(msg(1, "$cub5"), msg(2, "$cub1"), msg(3, "$cub5"))}, {b(msg(1, "$cub5", "$cub1", "$cub3"), msg(2, "$cub9", "$cub1"))}} {
 		if audit.Once(boxes) {
 			t.Errorf("P29.1: row %d: not once", i)
 		}

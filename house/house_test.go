@@ -118,7 +118,7 @@ func TestAppend(t *testing.T) {
 		body []byte
 		want api.Errno
 	}{
-		{"none", []string{"a b"}, "x", nil, api.ErrNone}, {"a", nil, "today", nil, api.ErrForm}, {"a", many, "", []byte{'a', 0}, api.ErrForm}, {"a", []string{"a b"}, "", long, api.ErrForm}, {"a", many, "", long, api.ErrLong}, {"a", nil, "", long, api.ErrLong},
+		{"none", []string{"a b"}, "x", nil, api.ErrNone}, {"a", nil, "today", nil, api.ErrForm}, {"a", many, "", []byte{'a', 0}, api.ErrForm}, {"a", nil, "", []byte{0}, api.ErrForm}, {"a", nil, "", []byte{0, 'a'}, api.ErrForm}, {"a", []string{"a b"}, "", long, api.ErrForm}, {"a", many, "", long, api.ErrLong}, {"a", nil, "", long, api.ErrLong},
 	}
 	for i, r := range rows {
 		if uid, e := h.Append(r.box, r.l, r.date, r.body); uid != 0 || e != r.want {

@@ -540,3 +540,43 @@ func TestWrongImages(t *testing.T) {
 	image.See(api.Folder{})
 	image.Names(api.Image{})
 }
+
+func TestUpOne(t *testing.T) {
+	m := image.Merge(image.Begin(), "INBOX", 1, []api.Seen{seen(1, 1)})
+	m = image.Merge(m, "INBOX", 1, []api.Seen{seen(1, 1)})
+	if l := m.Folders[0].List; len(l) != 1 || l[0].Uid != 1 {
+		t.Errorf("P21.4: it stays: %+v", l)
+	}
+	m = image.Evict(image.Fill(m, api.Want{Valid: 1, Uid: 1}, []byte("x")), 0)
+	if m.Folders[0].List[0].Has {
+		t.Error("P21.5: what upstream has is clean")
+	}
+	for _, body := range []string{"\x00", "\x00a", "a\x00"} {
+		if _, _, e := image.Add(m, "INBOX", nil, "", []byte(body)); e != api.ErrForm {
+			t.Errorf("P21.3: a byte 00: %d", e)
+		}
+	}
+	if _, _, e := image.Add(m, "INBOX", nil, "", make([]byte, api.MaxLiteral+1)); e != api.ErrForm {
+		t.Errorf("P21.3: ErrForm is named ahead of ErrLong: %d", e)
+	}
+	if _, _, e := image.Add(m, "INBOX", nil, "", []byte(strings.Repeat("x", api.MaxLiteral))); e != api.OK {
+		t.Errorf("P21.3: the longest: %d", e)
+	}
+}
+
+func TestMergeKeepsTheOrder(t *testing.T) {
+	m := create(t, image.Begin(), "x", "a")
+	m, _ = image.Delete(m, "a")
+	m, _ = image.Rename(m, "x", "a")
+	m = image.Merge(right(t, m), "a", 5, nil)
+	m = right(t, image.Merge(m, "a", 6, nil))
+	if f := folder(t, m, "a"); f.Valid != 4 || f.Up != 6 || image.By(m, 3) != 1 || image.By(m, 4) != 2 {
+		t.Errorf("P21.4: a new folder stands where its validity asks: %+v", m)
+	}
+	n := create(t, image.Begin(), "b", "a")
+	n, _ = image.Rename(n, "b", "c")
+	n, _ = image.Rename(n, "a", "d")
+	if !slices.Equal(image.Names(right(t, n)), []string{"INBOX", "c", "d"}) {
+		t.Errorf("P21.2: Rename keeps the order: %q", image.Names(n))
+	}
+}

@@ -580,3 +580,93 @@ func TestHandedOut(t *testing.T) {
 		t.Error("R3: what is handed out is new")
 	}
 }
+
+func TestUsesAreKeptAndPutLater(t *testing.T) {
+	x := begin(t, 1<<14, 4096)
+	x.in(0, "INBOX")
+	x.bytes(0, "a APPEND INBOX {1}\r\nx\r\n")
+	x.move(api.MoveArm, 1)
+	x.bytes(0, "b FETCH 1 BODY.PEEK[]\r\n")
+	if s := x.p.State(); s.Image.Clock != 1 || s.Image.Folders[0].List[0].Used != 1 || x.p.Down() {
+		t.Errorf("P28.2: what only counts uses is kept, and not put: %+v", s.Image)
+	}
+	x.move(api.MoveArm, 0)
+	x.bytes(0, "c CREATE a\r\n")
+	x.do(api.Move{Kind: api.MoveFall}, api.OK)
+	if s := x.p.State(); s.Image.Clock != 1 || s.Image.Folders[0].List[0].Used != 1 {
+		t.Errorf("P28.2: it is put with what is put next: %+v", s.Image)
+	}
+	x.move(api.MoveLink, 1)
+	x.move(api.MoveArm, 1)
+	x.steps(1)
+	if x.p.Down() {
+		t.Error("P28.2: a step that changes no state puts none")
+	}
+}
+
+func TestUpstreamDrops(t *testing.T) {
+	x := begin(t, 1<<14, 4096)
+	dropped := func(what string) {
+		t.Helper()
+		if got := string(x.r.Line([]byte("q CHECK"))); got != "q BAD bad\r\n" {
+			t.Errorf("P28.2: upstream drops: %s: %q", what, got)
+		}
+	}
+	x.move(api.MoveLink, 1)
+	x.steps(1)
+	x.move(api.MoveCut, 0)
+	x.steps(1)
+	dropped("MoveCut")
+	x.move(api.MoveLink, 1)
+	x.steps(1)
+	x.do(api.Move{Kind: api.MoveFall}, api.OK)
+	dropped("MoveFall")
+	x.move(api.MoveLink, 1)
+	x.steps(1)
+	x.move(api.MoveLink, 1)
+	if got := string(x.r.Line([]byte("q CHECK"))); got != "q OK done\r\n" {
+		t.Errorf("P28.2: a link that stays: %q", got)
+	}
+	x.move(api.MoveLink, 0)
+	dropped("MoveLink")
+}
+
+func TestDownStaysDown(t *testing.T) {
+	x := begin(t, 1<<14, 4096)
+	x.in(0, "")
+	x.move(api.MoveArm, 1)
+	x.do(api.Move{Kind: api.MoveBytes, Bytes: []byte("a CREATE a\r\n")}, api.ErrDown)
+	x.d.Start()
+	if !x.p.Down() {
+		t.Error("P28.1: once the disk has gone down, till MoveFall")
+	}
+	x.do(api.Move{Kind: api.MoveBytes, Bytes: []byte("a NOOP\r\n")}, api.ErrDown)
+	x.do(api.Move{Kind: api.MoveFall}, api.OK)
+	x.d.Crash(nil)
+	if !x.p.Down() {
+		t.Error("P28.1: a disk that has crashed")
+	}
+	x.do(api.Move{Kind: api.MoveSync}, api.ErrDown)
+	x.do(api.Move{Kind: api.MoveFall}, api.OK)
+	if x.p.Down() {
+		t.Error("P28.1: till MoveFall")
+	}
+}
+
+func TestNoRoomForAStep(t *testing.T) {
+	x := begin(t, 400, 4096)
+	var l []string
+	for i := range 12 {
+		l = append(l, strings.Repeat("k", 20)+strconv.Itoa(100+i))
+	}
+	for range 150 {
+		x.edit("", "APPEND INBOX ("+strings.Join(l, " ")+") {1}\r\nx")
+	}
+	x.move(api.MoveLink, 1)
+	x.steps(3)
+	before := x.p.State()
+	x.steps(1)
+	if line := x.p.Line(); line.Phase != 0 || !line.In || !same(x.p.State(), before) {
+		t.Errorf("P28.2: nothing comes of it, and Phase is 0: %+v", line)
+	}
+}

@@ -460,3 +460,33 @@ func TestWhatIsAnsweredIsRight(t *testing.T) {
 		}
 	}
 }
+
+func TestUpOne(t *testing.T) {
+	s := queue.Done(add(t, queue.Begin(), "INBOX"), 1)
+	if h := inbox(s)[0]; h.Up != 1 {
+		t.Errorf("P22.3: Done(1): %+v", h)
+	}
+	if got := queue.Ups(s, api.Entry{Valid: 1, Uids: []uint32{1}}); !slices.Equal(got, []uint32{1}) {
+		t.Errorf("P22.4: Ups: %v", got)
+	}
+	s.Queue = []api.Entry{{Token: 1, Kind: api.DoAppend, Box: "a", Valid: 1, Uids: []uint32{3}, Date: noDate, Body: []byte(strings.Repeat("x", api.MaxLiteral))}}
+	if !queue.Right(s) {
+		t.Error("P22.1: the longest body")
+	}
+	s.Token = 1
+	if queue.Right(s) {
+		t.Error("P22.1: the queue's tokens are below Token")
+	}
+	dead := func(token uint64) api.Dead {
+		return api.Dead{Entry: api.Entry{Token: token, Kind: api.DoCreate, Box: "a", Valid: 7}, Why: 2}
+	}
+	s.Queue, s.Token = nil, 9
+	s.Dead = []api.Dead{dead(5), dead(2), dead(8)}
+	if !queue.Right(s) {
+		t.Error("P22.1: tokens of the dead need not rise")
+	}
+	s.Dead[2] = dead(5)
+	if queue.Right(s) {
+		t.Error("P22.1: no two of the dead have one token")
+	}
+}

@@ -69,7 +69,14 @@ func TestMailboxes(t *testing.T) {
 	if r.Selected() != "" {
 		t.Error("P19.1: renamed there and back, it is not selected")
 	}
+	says(r, "t CREATE other", "t SELECT INBOX")
 	expect(t, r, "t RENAME INBOX x", "t NO no")
+	expect(t, r, "t DELETE INBOX", "t NO no")
+	expect(t, r, "t RENAME other new", "t OK done")
+	expect(t, r, "t DELETE new", "t OK done")
+	if r.Selected() != "INBOX" {
+		t.Error("P19.1: what happens to others plays no part")
+	}
 	says(r, "t SELECT &AOk-")
 	expect(t, r, "t DELETE INBOX", "t NO no")
 	expect(t, r, "t DELETE &AOk-", "t OK done")

@@ -268,6 +268,11 @@ func TestUnavailable(t *testing.T) {
 			t.Errorf("P25.3: wanted: %v", d.wants)
 		}
 	}
+	d.expect(0, "FETCH 1 BODY.PEEK[]", "t NO [UNAVAILABLE] no")
+	if !same(d.wants, []api.Want{{Valid: 1, Uid: 1}}) {
+		t.Errorf("P25.3: wanted: %v", d.wants)
+	}
+	d.expect(0, "FETCH 2 BODY.PEEK[]<0.1>", "* 2 FETCH (BODY[]<0> \"h\")|t OK done")
 	d.expect(0, "UID FETCH 2 BODY.PEEK[]", "* 2 FETCH (UID 2 BODY[] \"hi\")|t OK done")
 	if len(d.wants) != 0 {
 		t.Error("P25.3: nothing is wanted")

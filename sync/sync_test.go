@@ -515,3 +515,57 @@ func TestWithAServer(t *testing.T) {
 		t.Errorf("W1: %+v", f)
 	}
 }
+
+func TestWhatIsNotWanted(t *testing.T) {
+	w := []api.Want{{Valid: 1, Uid: 1}}
+	gone := known()
+	gone.Image.Folders[0].List[0].Gone = true
+	here := known()
+	here.Image = image.Fill(here.Image, w[0], []byte("hi"))
+	hidden := queue.Done(created("a"), 0)
+	hidden.Image = image.Merge(hidden.Image, "a", 3, []api.Seen{{Up: 1, Date: noDate, Size: 2}})
+	hidden.Image.Folders[1].Gone = true
+	for i, s := range []api.State{gone, here, hidden} {
+		x := on(t, s)
+		x.l.Wants = []api.Want{{Valid: uint32(1 + i/2), Uid: 1}}
+		x.step(word(api.SayList), names("INBOX"))
+		if len(x.l.Wants) != 0 {
+			t.Errorf("P27.3: row %d: %v", i, x.l.Wants)
+		}
+	}
+	one := known()
+	one.Image.Folders[0].List[0].Up = 1
+	x := on(t, one)
+	x.l.Wants = w
+	x.next(box(api.SaySelect, "INBOX"))
+}
+
+func TestOddPhases(t *testing.T) {
+	s, _, _ := queue.Store(known(), "INBOX", []uint32{1}, api.AddFlags, []string{`\Deleted`})
+	e, _, _ := queue.Expunge(queue.Done(s, 0), "INBOX", []uint32{1})
+	never := e
+	never.Image.Folders = slices.Clone(e.Image.Folders)
+	never.Image.Folders[0].List = nil
+	rows := []struct {
+		s     api.State
+		phase int
+		want  api.Word
+	}{
+		{s, 2, box(api.SaySelect, "INBOX")}, {s, 10, box(api.SaySelect, "INBOX")}, {s, 20, box(api.SaySelect, "INBOX")}, {created("a"), 2, word(api.SayList)}, {created("a"), 11, word(api.SayList)},
+		{e, 1, api.Word{Kind: api.SayRemove, Ups: []uint32{5}}}, {never, 1, box(api.SaySelect, "INBOX")}, {e, 2, box(api.SaySelect, "INBOX")},
+	}
+	for _, r := range rows {
+		x := on(t, r.s)
+		x.l.Phase = r.phase
+		x.l.Todo = []string{"INBOX"}
+		x.next(r.want)
+	}
+	x := on(t, created("a"))
+	x.l.Phase = 11
+	x.step(word(api.SayList), no())
+	x.phase(0)
+	x = on(t, known())
+	x.l.Phase = 20
+	x.step(word(api.SayList), no())
+	x.phase(0)
+}
