@@ -174,3 +174,56 @@ func TestParseOfOtherBytes(t *testing.T) {
 		}
 	}
 }
+
+// some is a reply that may be right.
+func some(r *rand.Rand) api.Reply {
+	texts := []string{"", "a", "x y", "[", "]", "(", ")", "{1}", "\"q\"", "\\", "*", "+", "\r\n", "\xff", "NIL", "<0>", "BODY[]", "(a (b) \"(\" {1}\r\n))", "()", "((", "7", "a[b c]<d", "~", " "}
+	text := func() string { return texts[r.Intn(len(texts))] }
+	x := api.Reply{Kind: 1 + r.Intn(13), Tag: []string{"*", "*", "a1", "+", ""}[r.Intn(5)], Text: text()}
+	switch r.Intn(4) {
+	case 0:
+		x.Code = text()
+	case 1:
+		x.N = uint32(r.Intn(3))
+	}
+	for range r.Intn(3) {
+		switch x.Kind {
+		case api.ReplyHits:
+			x.Nums = append(x.Nums, 1+r.Uint32()>>uint(r.Intn(32)))
+		case api.ReplyList, api.ReplyFlags, api.ReplyCaps:
+			x.Flags = append(x.Flags, text())
+		default:
+			x.Pairs = append(x.Pairs, api.Pair{Name: text(), Value: text(), Lit: r.Intn(2) == 0})
+		}
+	}
+	if x.Kind > api.ReplyMore && x.Kind != api.ReplyList && x.Kind != api.ReplyState {
+		x.Text = ""
+	}
+	if x.Kind == api.ReplyFetch {
+		x.N = 1
+	}
+	return x
+}
+
+func TestWhatIsPrintedIsParsed(t *testing.T) {
+	r := rand.New(rand.NewSource(120))
+	kinds := map[int]int{}
+	for range 60000 {
+		x := some(r)
+		b, e := reply.Print(x)
+		if e != api.OK {
+			continue
+		}
+		kinds[x.Kind]++
+		got, n, e := reply.Parse(append(b[:len(b):len(b)], "* OK x"...))
+		if e != api.OK || n != len(b) || !same(got, x) {
+			t.Fatalf("P12.1: Parse(%q): %+v, %d, %d", b, got, n, e)
+		}
+		if _, _, e := reply.Parse(b[:r.Intn(len(b))]); e != api.ErrShort {
+			t.Fatalf("P12.1: a beginning of %q: %d", b, e)
+		}
+	}
+	if len(kinds) != 13 {
+		t.Errorf("only kinds %v were printed", kinds)
+	}
+}
