@@ -2,6 +2,7 @@ package command
 
 import (
 	"cubby/api"
+	"cubby/text"
 	"strings"
 )
 
@@ -147,7 +148,7 @@ func (p *parser) fields(s *api.Section) bool {
 		if len(s.Fields) == api.MaxItems {
 			return p.fail(api.ErrLong)
 		}
-		s.Fields = append(s.Fields, strings.ToLower(name))
+		s.Fields = append(s.Fields, text.Small(name))
 		return true
 	})
 }

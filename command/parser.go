@@ -6,7 +6,6 @@ import (
 	"cubby/sets"
 	"cubby/stamp"
 	"cubby/text"
-	"cubby/token"
 	"cubby/utf7"
 	"strings"
 )
@@ -72,7 +71,7 @@ func (p *parser) blankMailbox(to *string) bool {
 	if !p.blankText(&s) {
 		return false
 	}
-	if strings.EqualFold(s, "inbox") && token.Atom(s) {
+	if text.Small(s) == "inbox" {
 		*to = "INBOX"
 		return true
 	}

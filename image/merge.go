@@ -154,7 +154,7 @@ func Evict(m api.Image, budget int) api.Image {
 		}
 	}
 	for _, id := range s.Evict() {
-		if h := message(&out, api.Want(id)); h != nil {
+		if h := message(&out, api.Want{Valid: id.Valid, Uid: id.Uid}); h != nil {
 			h.Has, h.Body = false, nil
 		}
 	}

@@ -5,10 +5,10 @@ import (
 	"cubby/flags"
 	"cubby/image"
 	"cubby/queue"
+	"cubby/text"
 	"cubby/utf7"
 	"cubby/view"
 	"strconv"
-	"strings"
 )
 
 const inbox = "INBOX"
@@ -76,7 +76,7 @@ func (t *talk) list() int {
 
 // fits tells whether a pattern fits a name: for each beginning of the pattern, which beginnings of the name it fits.
 func fits(pattern, name string) bool {
-	if strings.EqualFold(pattern, inbox) {
+	if text.Small(pattern) == text.Small(inbox) {
 		return name == inbox
 	}
 	now := make([]bool, len(name)+1)
