@@ -256,7 +256,7 @@ func (p *parser) store(c *api.Command) bool {
 	}
 }
 
-func (p *parser) copy(c *api.Command) bool {
+func (p *parser) copies(c *api.Command) bool {
 	c.Kind = api.CmdCopy
 	return p.blankSet(&c.Set) && p.blankMailbox(&c.To)
 }

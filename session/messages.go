@@ -231,7 +231,7 @@ func body(i api.Item, b []byte) (string, bool) {
 	return string(found), true
 }
 
-func (t *talk) copy() int {
+func (t *talk) copies() int {
 	if image.Find(t.s.Image, t.c.To) < 0 {
 		return t.no("TRYCREATE")
 	}
