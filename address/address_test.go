@@ -51,7 +51,7 @@ func TestParse(t *testing.T) {
 func TestValue(t *testing.T) {
 	long := strings.Repeat("\xff", api.MaxLiteral+5)
 	rows := []struct{ s, want string }{
-		{"", "NIL"}, {"a", `"a"`}, {`a"\`, `"a\"\\"`}, {"\u00e9", "{2}\r\n\u00e9"}, {"a\r\nb", "{4}\r\na\r\nb"}, {"a\x00b", `"ab"`}, {"\xff\x00", "{1}\r\n\xff"}, {" ", `" "`}, {"NIL", `"NIL"`},
+		{"", "NIL"}, {"a", `"a"`}, {`a"\`, `"a\"\\"`}, {"\u00e9", "{2}\r\n\u00e9"}, {"a\r\nb", "{4}\r\na\r\nb"}, {"\xff\x00", "{1}\r\n\xff"}, {" ", `" "`}, {"NIL", `"NIL"`},
 		{long, "{16389}\r\n" + long}, {strings.Repeat("a", 20000), `"` + strings.Repeat("a", 20000) + `"`},
 	}
 	for _, r := range rows {

@@ -128,7 +128,7 @@ func TestReaderEnd(t *testing.T) {
 	if none.Num() != 0 || len(none.Text()) != 0 || none.Left() != 0 || none.Err() != api.ErrNil || none.End() != api.ErrNil {
 		t.Error("P1.3: of nil")
 	}
-	empty := new(code.Reader)
+	empty := code.New(nil)
 	if empty.End() != api.OK || empty.Num() != 0 || empty.Err() != api.ErrShort {
 		t.Error("P1.3: a reader of nothing")
 	}

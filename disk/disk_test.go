@@ -224,8 +224,4 @@ func TestNil(t *testing.T) {
 	if d.Size() != 0 || d.Down() || d.Waiting() != 0 || d.Fork() != nil {
 		t.Error("P2.3: of nil: zero values")
 	}
-	none := new(disk.Disk)
-	if none.Write(0, full(0)) != api.ErrArg || none.Flush() != api.OK || none.Fork().Size() != 0 {
-		t.Error("R1: a disk without sectors")
-	}
 }

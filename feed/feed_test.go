@@ -185,9 +185,4 @@ func TestNil(t *testing.T) {
 	if b, n := f.Next(); b != nil || n != 0 || f.Held() != 0 {
 		t.Error("P10.2: of nil")
 	}
-	g := new(feed.Feed)
-	g.Put([]byte("a\r\n"))
-	if b, n := g.Next(); string(b) != "a" || n != 1 {
-		t.Error("R1: a feed that is its zero value")
-	}
 }

@@ -231,10 +231,6 @@ func TestNil(t *testing.T) {
 	if b, ok := h.Box("INBOX"); ok || b.Name != "" {
 		t.Error("P18.3: Box of nil")
 	}
-	e := new(house.House)
-	if e.Create("a") != api.OK || len(e.Names()) != 1 || e.Reset("a") != api.OK {
-		t.Error("R1: a house that is its zero value")
-	}
 	if b, ok := house.New().Box("none"); ok || b.Name != "" || b.Valid != 0 {
 		t.Error("R4: Box of none")
 	}

