@@ -47,7 +47,8 @@ func (r *reader) texts() []string {
 
 func (r *reader) ended() bool { return r.ok && r.r.End() == api.OK }
 
-func (r *reader) entry() api.Entry {
+// entry reads an entry; its bytes are its message's, where it says so.
+func (r *reader) entry(m *api.Image) api.Entry {
 	e := api.Entry{Kind: r.int(), Box: r.text(), To: r.text(), Valid: r.number()}
 	for range r.many() {
 		e.Uids = append(e.Uids, r.number())
@@ -55,7 +56,13 @@ func (r *reader) entry() api.Entry {
 	e.Op = r.int()
 	e.Flags = r.texts()
 	e.Date = r.text()
-	e.Body = []byte(r.text())
+	if !r.truth() {
+		e.Body = []byte(r.text())
+	} else if h := appended(m, e); h != nil {
+		e.Body = bytes.Clone(h.Body)
+	} else {
+		r.ok = false
+	}
 	return e
 }
 
@@ -94,14 +101,14 @@ func (b *builder) take(i item) bool {
 		return b.body(k, i.value) && k.ended()
 	case kindEntry:
 		token := k.r.Num()
-		e := v.entry()
+		e := v.entry(&b.s.Image)
 		e.Token = token
 		b.s.Queue = append(b.s.Queue, e)
 	case kindDead:
 		k.int()
 		d := api.Dead{Why: v.int()}
 		token := v.r.Num()
-		d.Entry = v.entry()
+		d.Entry = v.entry(&b.s.Image)
 		d.Entry.Token = token
 		b.s.Dead = append(b.s.Dead, d)
 	case kindRest:
@@ -151,12 +158,16 @@ func alone(i item) bool {
 	if len(i.key) == 0 {
 		return false
 	}
-	if i.key[0] == kindHead || i.key[0] == kindBody {
-		k := read(i.key[1:])
+	k := read(i.key[1:])
+	switch i.key[0] {
+	case kindHead, kindBody:
 		k.number()
 		k.number()
-		return k.ended()
+	case kindEntry:
+		k.r.Num()
+	default:
+		b := builder{at: map[uint32]int{}}
+		return b.take(i)
 	}
-	b := builder{at: map[uint32]int{}}
-	return b.take(i)
+	return k.ended()
 }

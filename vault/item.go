@@ -79,7 +79,8 @@ func folderValue(f api.Folder) []byte {
 	return w.b
 }
 
-func (w *writer) entry(e api.Entry) {
+// entry tells an entry; its bytes only where they do not stand in its message as well.
+func (w *writer) entry(e api.Entry, twin *api.Held) {
 	w.num(uint64(e.Kind))
 	w.text(e.Box)
 	w.text(e.To)
@@ -91,7 +92,35 @@ func (w *writer) entry(e api.Entry) {
 	w.num(uint64(e.Op))
 	w.texts(e.Flags)
 	w.text(e.Date)
-	w.text(string(e.Body))
+	w.truth(twin != nil)
+	if twin == nil {
+		w.text(string(e.Body))
+	}
+}
+
+// appended is the message that an append has put into its folder, if its bytes are there.
+func appended(m *api.Image, e api.Entry) *api.Held {
+	if e.Kind != api.DoAppend || len(e.Uids) != 1 {
+		return nil
+	}
+	for _, f := range m.Folders {
+		if f.Valid != e.Valid {
+			continue
+		}
+		i, ok := slices.BinarySearchFunc(f.List, e.Uids[0], func(h api.Held, uid uint32) int { return cmp.Compare(h.Uid, uid) })
+		if ok && f.List[i].Has {
+			return &f.List[i]
+		}
+	}
+	return nil
+}
+
+// twin is the message that has an entry's bytes, too.
+func twin(m *api.Image, e api.Entry) *api.Held {
+	if h := appended(m, e); h != nil && bytes.Equal(h.Body, e.Body) {
+		return h
+	}
+	return nil
 }
 
 // items is a state as items, by rising keys.
@@ -109,14 +138,14 @@ func items(s api.State) []item {
 	}
 	for _, e := range s.Queue {
 		var w writer
-		w.entry(e)
+		w.entry(e, twin(&s.Image, e))
 		out = append(out, item{key(kindEntry, e.Token), w.b})
 	}
 	for i, d := range s.Dead {
 		var w writer
 		w.num(uint64(d.Why))
 		w.num(d.Entry.Token)
-		w.entry(d.Entry)
+		w.entry(d.Entry, nil)
 		out = append(out, item{key(kindDead, uint64(i)), w.b})
 	}
 	var w writer

@@ -92,7 +92,13 @@ func full(t *testing.T) api.State {
 }
 
 func TestPackAndTake(t *testing.T) {
-	for i, s := range []api.State{queue.Begin(), full(t)} {
+	other, _, _ := queue.Append(queue.Begin(), "INBOX", nil, "", []byte("entry"))
+	other.Queue[0].Body = []byte("other")
+	away, _, _ := queue.Append(queue.Begin(), "INBOX", nil, "", []byte("entry"))
+	away.Image = image.Merge(away.Image, "INBOX", 3, nil)
+	known, _, _ := queue.Append(queue.Begin(), "INBOX", nil, "", bytes.Repeat([]byte("known"), 100))
+	known, _, _ = queue.Append(known, "INBOX", nil, "", nil)
+	for i, s := range []api.State{queue.Begin(), full(t), other, away, known} {
 		b, e := vault.Pack(s)
 		if e != api.OK {
 			t.Fatalf("P23.1: Pack: %d", e)
