@@ -490,3 +490,48 @@ func TestUpOne(t *testing.T) {
 		t.Error("P22.1: no two of the dead have one token")
 	}
 }
+
+// Entries about what is not as they left it: only what is Gone goes, and INBOX never.
+func TestEntriesOfWhatHasChanged(t *testing.T) {
+	s := queue.Done(create(t, queue.Begin(), "a"), 0)
+	s = queue.Done(add(t, s, "a", `\Deleted`), 4)
+	s.Queue = []api.Entry{
+		{Token: 1, Kind: api.DoCreate, Box: "INBOX", Valid: 1},
+		{Token: 2, Kind: api.DoDelete, Box: "a", Valid: 2},
+		{Token: 3, Kind: api.DoExpunge, Box: "a", Valid: 2, Uids: []uint32{1}},
+		{Token: 4, Kind: api.DoStore, Box: "z", Valid: 99, Uids: []uint32{1}, Op: 1},
+		{Token: 5, Kind: api.DoAppend, Box: "a", Valid: 2, Uids: []uint32{1}, Date: noDate},
+		{Token: 6, Kind: api.DoAppend, Box: "a", Valid: 2, Uids: []uint32{77}, Date: noDate},
+	}
+	s.Token = 7
+	right(t, s)
+	for _, end := range []func(api.State) api.State{func(s api.State) api.State { return queue.Done(s, 4) }, func(s api.State) api.State { return queue.Kill(s, api.DeadGone) }} {
+		x := s
+		for len(x.Queue) > 0 {
+			x = right(t, end(x))
+			if !same(x.Image, s.Image) {
+				t.Fatalf("P22.3: %d entries left: %+v", len(x.Queue), x.Image)
+			}
+		}
+	}
+	if k := queue.Kill(s, api.DeadEpoch); k.Token != s.Token || len(k.Dead) != 1 || k.Dead[0].Why != api.DeadEpoch {
+		t.Errorf("P22.3: Kill: %+v", k)
+	}
+}
+
+func TestOtherFoldersStay(t *testing.T) {
+	s := queue.Done(create(t, queue.Begin(), "a"), 0)
+	s = add(t, add(t, s, "a"), "INBOX")
+	d := right(t, queue.Done(s, 9))
+	if a := d.Image.Folders[1].List[0]; a.Up != 9 || d.Image.Folders[0].List[0].Up != 0 {
+		t.Errorf("P22.3: the message of the folder of its validity: %+v", d.Image)
+	}
+	d = right(t, queue.Done(d, 9))
+	if d.Image.Folders[0].List[0].Up != 9 {
+		t.Errorf("P22.3: another folder's Ups play no part: %+v", d.Image)
+	}
+	k := right(t, queue.Kill(s, api.DeadGone))
+	if len(k.Image.Folders[0].List) != 1 || len(k.Image.Folders[1].List) != 0 {
+		t.Errorf("P22.3: Kill: %+v", k.Image)
+	}
+}

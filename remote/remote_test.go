@@ -120,6 +120,9 @@ func TestMessages(t *testing.T) {
 	expect(t, r, "t UID STORE 2:9 +FLAGS (\\Deleted)", "t OK done")
 	expect(t, r, "t UID STORE 1 FLAGS (z)", "t OK done")
 	expect(t, r, "t UID STORE 9 FLAGS (z)", "t OK done")
+	expect(t, r, "t UID STORE * +FLAGS (last)", "t OK done")
+	expect(t, r, "t UID SEARCH KEYWORD last", "* SEARCH 3|t OK done")
+	expect(t, r, "t UID STORE 3 -FLAGS (last)", "t OK done")
 	b, _ := h.Box("INBOX")
 	if strings.Join(b.Msgs[0].Flags, " ") != "$cub7 z" || strings.Join(b.Msgs[2].Flags, " ") != `\Deleted a b` {
 		t.Errorf("P19.1: STORE: %v", b.Msgs)
